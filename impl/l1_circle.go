@@ -47,9 +47,19 @@ func (c *circle) next() int {
 	return slices.IndexFunc(c.left, c.is)
 }
 
+// counted returns where in c.left the one stands who is counted out forward.
+func (c *circle) counted() int {
+	return around(c.next()+c.step-1, len(c.left))
+}
+
+// passTo lets the next turn count from an index in c.left on, which goes around. Somebody has to be left.
+func (c *circle) passTo(at int) {
+	c.person = c.left[around(at, len(c.left))]
+}
+
 // goForward lets the one go who is counted out forward.
 func (c *circle) goForward() person {
-	at := around(c.next()+c.step-1, len(c.left))
+	at := c.counted()
 	return c.letGo(at, at)
 }
 
@@ -64,7 +74,7 @@ func (c *circle) letGo(at int, next int) person {
 	gone := c.left[at]
 	c.left = slices.Delete(c.left, at, at+1)
 	if len(c.left) > 0 {
-		c.person = c.left[around(next, len(c.left))]
+		c.passTo(next)
 	}
 	return gone
 }

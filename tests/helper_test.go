@@ -78,6 +78,13 @@ func wantRing(t *testing.T, name string, got impl.Ring, ok bool, want impl.Ring)
 	}
 }
 
+func wantCats(t *testing.T, name string, got impl.Cats, ok bool, want impl.Cats) {
+	t.Helper()
+	if !ok || got.Step != want.Step || !slices.Equal(got.Lives, want.Lives) {
+		t.Errorf("%s: got %v, %v, want %v, true", name, got, ok, want)
+	}
+}
+
 func failsList(t *testing.T, name string, got []int, ok bool) {
 	t.Helper()
 	if ok || len(got) != 0 {
@@ -95,6 +102,13 @@ func failsNumber(t *testing.T, name string, got int, ok bool) {
 func failsRing(t *testing.T, name string, got impl.Ring, ok bool) {
 	t.Helper()
 	if ok || got.Step != 0 || len(got.People) != 0 {
+		t.Errorf("%s: got %v, %v, want a failure without a value", name, got, ok)
+	}
+}
+
+func failsCats(t *testing.T, name string, got impl.Cats, ok bool) {
+	t.Helper()
+	if ok || got.Step != 0 || len(got.Lives) != 0 {
 		t.Errorf("%s: got %v, %v, want a failure without a value", name, got, ok)
 	}
 }
