@@ -130,14 +130,19 @@ func orderOfAll(people int, step int) []person {
 	return countOut(circleOf(firstNumbers(people), step), people, (*circle).goForward)
 }
 
-// lastByFormula tells who is left without an order, for circles that are too great to be counted out:
-// the one who is left of m people is step places behind the one who is left of one less.
-func lastByFormula(people int, step int) int {
-	last := 0
-	for m := 2; m <= people; m++ {
-		last = (last + step) % m
+// outByFormula tells who goes at a turn without an order, for circles or steps that are too many to be counted out:
+// the one who goes at a turn of m people is step places behind the one who goes a turn earlier of one less.
+func outByFormula(people int, step int, turn int) int {
+	out := (step - 1) % (people - turn)
+	for m := people - turn + 1; m <= people; m++ {
+		out = (out + step) % m
 	}
-	return last
+	return out
+}
+
+// lastByFormula tells who is left in the same way.
+func lastByFormula(people int, step int) int {
+	return outByFormula(people, step, people-1)
 }
 
 // OrderOut returns the order out.
