@@ -52,6 +52,11 @@ func (c *circle) counted() int {
 	return around(c.next()+c.step-1, len(c.left))
 }
 
+// countedBack returns where in c.left the one stands who is counted out backward.
+func (c *circle) countedBack() int {
+	return around(c.next()-c.step+1, len(c.left))
+}
+
 // passTo lets the next turn count from an index in c.left on, which goes around. Somebody has to be left.
 func (c *circle) passTo(at int) {
 	c.person = c.left[around(at, len(c.left))]
@@ -65,7 +70,7 @@ func (c *circle) goForward() person {
 
 // goBackward lets the one go who is counted out backward.
 func (c *circle) goBackward() person {
-	at := around(c.next()-c.step+1, len(c.left))
+	at := c.countedBack()
 	return c.letGo(at, at-1)
 }
 
