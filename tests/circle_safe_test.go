@@ -101,12 +101,5 @@ func TestCallsAreAlike(t *testing.T) {
 		func() []int { r, _ := impl.RingOf(9, 4); return r.People },
 		func() []int { r, _ := impl.ParseRing("4@1,2,3"); return r.People },
 	}
-	for i, call := range calls {
-		first := call()
-		kept := slices.Clone(first)
-		overwrite(first)
-		if second := call(); len(kept) == 0 || !slices.Equal(second, kept) {
-			t.Error("a second call gives something else:", i, kept, second)
-		}
-	}
+	wantAlike(t, calls)
 }

@@ -36,12 +36,12 @@ func walkOut(people, step, begin, way int) []int {
 	return order
 }
 
-// cutOut returns the numbers of a list in the order out, for steps that are too great to walk: it turns the list, and takes the first one out.
-func cutOut(numbers []int, step int) []int {
+// cutOut returns the numbers of a list in the order out, for steps that are too great to walk: it turns the list, and takes the first one out. Several steps take turns.
+func cutOut(numbers []int, steps ...int) []int {
 	left := slices.Clone(numbers)
 	var order []int
 	for len(left) > 0 {
-		by := (step - 1) % len(left)
+		by := (steps[len(order)%len(steps)] - 1) % len(left)
 		left = slices.Concat(left[by:], left[:by])
 		order = append(order, left[0])
 		left = left[1:]
@@ -85,6 +85,11 @@ func wantCats(t *testing.T, name string, got impl.Cats, ok bool, want impl.Cats)
 	}
 }
 
+func wantSong(t *testing.T, name string, got impl.Song, ok bool, counts ...int) {
+	t.Helper()
+	wantList(t, name, got.Counts, ok, counts)
+}
+
 func failsList(t *testing.T, name string, got []int, ok bool) {
 	t.Helper()
 	if ok || len(got) != 0 {
@@ -113,10 +118,28 @@ func failsCats(t *testing.T, name string, got impl.Cats, ok bool) {
 	}
 }
 
+func failsSong(t *testing.T, name string, got impl.Song, ok bool) {
+	t.Helper()
+	failsList(t, name, got.Counts, ok)
+}
+
 // overwrite fills a list and the room behind it.
 func overwrite(list []int) {
 	whole := list[:cap(list)]
 	for i := range whole {
 		whole[i] = -77
+	}
+}
+
+// wantAlike wants each call to give its list, which is not empty, again, whatever becomes of the first one.
+func wantAlike(t *testing.T, calls []func() []int) {
+	t.Helper()
+	for i, call := range calls {
+		first := call()
+		kept := slices.Clone(first)
+		overwrite(first)
+		if second := call(); len(kept) == 0 || !slices.Equal(second, kept) {
+			t.Error("a second call gives something else:", i, kept, second)
+		}
 	}
 }

@@ -113,14 +113,7 @@ func TestLifeCallsAreAlike(t *testing.T) {
 	for i := range callCats(impl.Cats{Lives: []int{2, 2, 2}, Step: 2}, 2, 1) {
 		calls = append(calls, func() []int { return callCats(impl.Cats{Lives: []int{2, 2, 2}, Step: 2}, 2, 1)[i] })
 	}
-	for i, call := range calls {
-		first := call()
-		kept := slices.Clone(first)
-		overwrite(first)
-		if second := call(); len(kept) == 0 || !slices.Equal(second, kept) {
-			t.Error("a second call gives something else:", i, kept, second)
-		}
-	}
+	wantAlike(t, calls)
 }
 
 // TestNobodyGoesOnCounting looks for goroutines that calls leave behind, of which some may be about to end.
